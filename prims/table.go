@@ -1,0 +1,56 @@
+package prims
+
+import "carrel/api"
+
+// table tells the primitives by their numbers: at 0 there is none. Each row
+// begins with the number of its first word.
+func table() [api.PrimMany + 1]api.Prim {
+	return [api.PrimMany + 1]api.Prim{
+		1: {Name: "EXIT"},
+		2: {Name: "(lit)", Lays: 1}, {Name: "(branch)"}, {Name: "(0branch)", Takes: 1}, {Name: "(do)", Takes: 2}, {Name: "(loop)"},
+		7: {Name: "(+loop)", Takes: 1}, {Name: "(s\")", Lays: 2}, {Name: "(.\")"}, {Name: "(abort\")", Takes: 1}, {Name: "(does)"},
+		12: {Name: "EXECUTE", Takes: 1},
+		13: {Name: "DUP", Takes: 1, Lays: 2}, {Name: "DROP", Takes: 1}, {Name: "SWAP", Takes: 2, Lays: 2}, {Name: "OVER", Takes: 2, Lays: 3},
+		17: {Name: "ROT", Takes: 3, Lays: 3}, {Name: "?DUP", Takes: 1, Lays: 2}, {Name: "2DUP", Takes: 2, Lays: 4}, {Name: "2DROP", Takes: 2},
+		21: {Name: "2SWAP", Takes: 4, Lays: 4}, {Name: "2OVER", Takes: 4, Lays: 6}, {Name: "DEPTH", Lays: 1},
+		24: {Name: ">R", Takes: 1}, {Name: "R>", Lays: 1}, {Name: "R@", Lays: 1},
+		27: {Name: "+", Takes: 2, Lays: 1}, {Name: "-", Takes: 2, Lays: 1}, {Name: "*", Takes: 2, Lays: 1}, {Name: "/", Takes: 2, Lays: 1},
+		31: {Name: "MOD", Takes: 2, Lays: 1}, {Name: "/MOD", Takes: 2, Lays: 2}, {Name: "*/", Takes: 3, Lays: 1}, {Name: "*/MOD", Takes: 3, Lays: 2},
+		35: {Name: "NEGATE", Takes: 1, Lays: 1}, {Name: "ABS", Takes: 1, Lays: 1}, {Name: "MIN", Takes: 2, Lays: 1}, {Name: "MAX", Takes: 2, Lays: 1},
+		39: {Name: "1+", Takes: 1, Lays: 1}, {Name: "1-", Takes: 1, Lays: 1}, {Name: "2*", Takes: 1, Lays: 1}, {Name: "2/", Takes: 1, Lays: 1},
+		43: {Name: "LSHIFT", Takes: 2, Lays: 1}, {Name: "RSHIFT", Takes: 2, Lays: 1},
+		45: {Name: "AND", Takes: 2, Lays: 1}, {Name: "OR", Takes: 2, Lays: 1}, {Name: "XOR", Takes: 2, Lays: 1}, {Name: "INVERT", Takes: 1, Lays: 1},
+		49: {Name: "=", Takes: 2, Lays: 1}, {Name: "<", Takes: 2, Lays: 1}, {Name: ">", Takes: 2, Lays: 1}, {Name: "U<", Takes: 2, Lays: 1},
+		53: {Name: "0=", Takes: 1, Lays: 1}, {Name: "0<", Takes: 1, Lays: 1},
+		55: {Name: "M*", Takes: 2, Lays: 2}, {Name: "UM*", Takes: 2, Lays: 2}, {Name: "UM/MOD", Takes: 3, Lays: 2}, {Name: "SM/REM", Takes: 3, Lays: 2},
+		59: {Name: "FM/MOD", Takes: 3, Lays: 2}, {Name: "S>D", Takes: 1, Lays: 2},
+		61: {Name: "@", Takes: 1, Lays: 1}, {Name: "!", Takes: 2}, {Name: "C@", Takes: 1, Lays: 1}, {Name: "C!", Takes: 2}, {Name: "+!", Takes: 2},
+		66: {Name: "2@", Takes: 1, Lays: 2}, {Name: "2!", Takes: 3},
+		68: {Name: "CELL+", Takes: 1, Lays: 1}, {Name: "CELLS", Takes: 1, Lays: 1}, {Name: "CHAR+", Takes: 1, Lays: 1}, {Name: "CHARS", Takes: 1, Lays: 1},
+		72: {Name: "ALIGN"}, {Name: "ALIGNED", Takes: 1, Lays: 1}, {Name: "HERE", Lays: 1}, {Name: "ALLOT", Takes: 1}, {Name: ",", Takes: 1},
+		77: {Name: "C,", Takes: 1},
+		78: {Name: "FILL", Takes: 3}, {Name: "MOVE", Takes: 3}, {Name: "COUNT", Takes: 1, Lays: 2},
+		81: {Name: "BASE", Lays: 1}, {Name: "STATE", Lays: 1}, {Name: "DECIMAL"}, {Name: "HEX"},
+		85: {Name: "EMIT", Takes: 1}, {Name: "TYPE", Takes: 2}, {Name: ".", Takes: 1}, {Name: "U.", Takes: 1}, {Name: "CR"}, {Name: "SPACE"},
+		91: {Name: "SPACES", Takes: 1}, {Name: "BL", Lays: 1},
+		93: {Name: "I", Lays: 1}, {Name: "J", Lays: 1}, {Name: "UNLOOP"},
+		96: {Name: ":"}, {Name: ";", Immediate: true, Compile: true}, {Name: "CREATE"}, {Name: "VARIABLE"}, {Name: "CONSTANT", Takes: 1},
+		101: {Name: "DOES>", Immediate: true, Compile: true}, {Name: "IMMEDIATE"},
+		103: {Name: "'", Lays: 1}, {Name: "[']", Immediate: true, Compile: true}, {Name: "LITERAL", Takes: 1, Immediate: true, Compile: true},
+		106: {Name: "POSTPONE", Immediate: true, Compile: true}, {Name: "RECURSE", Immediate: true, Compile: true},
+		108: {Name: "[", Immediate: true}, {Name: "]"},
+		110: {Name: "IF", Lays: 1, Immediate: true, Compile: true}, {Name: "ELSE", Takes: 1, Lays: 1, Immediate: true, Compile: true},
+		112: {Name: "THEN", Takes: 1, Immediate: true, Compile: true}, {Name: "BEGIN", Lays: 1, Immediate: true, Compile: true},
+		114: {Name: "UNTIL", Takes: 1, Immediate: true, Compile: true}, {Name: "WHILE", Takes: 1, Lays: 2, Immediate: true, Compile: true},
+		116: {Name: "REPEAT", Takes: 2, Immediate: true, Compile: true}, {Name: "AGAIN", Takes: 1, Immediate: true, Compile: true},
+		118: {Name: "DO", Lays: 1, Immediate: true, Compile: true}, {Name: "LOOP", Takes: 1, Immediate: true, Compile: true},
+		120: {Name: "+LOOP", Takes: 1, Immediate: true, Compile: true},
+		121: {Name: "(", Immediate: true}, {Name: "\\", Immediate: true}, {Name: ".\"", Immediate: true}, {Name: "S\"", Lays: 2, Immediate: true},
+		125: {Name: "ABORT"}, {Name: "ABORT\"", Immediate: true, Compile: true}, {Name: "THROW", Takes: 1},
+		128: {Name: "CHAR", Lays: 1}, {Name: "[CHAR]", Immediate: true, Compile: true}, {Name: ">BODY", Takes: 1, Lays: 1},
+		131: {Name: "CREATE-FILE", Takes: 3, Lays: 2}, {Name: "OPEN-FILE", Takes: 3, Lays: 2}, {Name: "CLOSE-FILE", Takes: 1, Lays: 1},
+		134: {Name: "READ-FILE", Takes: 3, Lays: 2}, {Name: "WRITE-FILE", Takes: 3, Lays: 1}, {Name: "FILE-SIZE", Takes: 1, Lays: 3},
+		137: {Name: "RESIZE-FILE", Takes: 3, Lays: 1}, {Name: "DELETE-FILE", Takes: 2, Lays: 1}, {Name: "RENAME-FILE", Takes: 4, Lays: 1},
+		140: {Name: "FILE-POSITION", Takes: 1, Lays: 3}, {Name: "REPOSITION-FILE", Takes: 3, Lays: 1},
+	}
+}
